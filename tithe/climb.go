@@ -1,0 +1,47 @@
+package tithe
+
+import "tithe/api"
+
+// climber goes up a proof's way, from its leaf to the root.
+type climber struct {
+	// step makes, of the one at a place and the one that stands beside it, the
+	// one above them; it answers false where the way must not go on.
+	step func(place int, here, beside side) (side, bool)
+}
+
+// climb answers what stands at the root, and whether the way led there.
+func (c climber) climb(p proof) (side, bool) {
+	here := side{digest: Sum(leafText(p.name, p.balance, p.salt)), sum: p.balance}
+	place, ok := p.place, true
+	for _, beside := range p.beside {
+		here, ok = c.step(place, here, beside)
+		if !ok {
+			return side{}, false
+		}
+		place /= 2
+	}
+	return here, true
+}
+
+// inOrder answers the left and the right one: the left one is at an even place.
+func inOrder(place int, here, beside side) (side, side) {
+	if place%2 == 0 {
+		return here, beside
+	}
+	return beside, here
+}
+
+// join needs sums of at most MaxSum each, so that both together don't go round.
+func join(place int, here, beside side) (side, bool) {
+	sum := here.sum + beside.sum
+	if sum > api.MaxSum {
+		return side{}, false
+	}
+	left, right := inOrder(place, here, beside)
+	return side{digest: Sum(nodeText(left, right)), sum: sum}, true
+}
+
+func accepts(r report, p proof) bool {
+	root, ok := climber{step: join}.climb(p)
+	return ok && root.digest == r.root.digest && root.sum == r.root.sum
+}
