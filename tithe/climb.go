@@ -1,7 +1,5 @@
 package tithe
 
-import "tithe/api"
-
 // climber goes up a proof's way, from its leaf to the root.
 type climber struct {
 	// step makes, of the one at a place and the one that stands beside it, the
@@ -11,7 +9,7 @@ type climber struct {
 
 // climb answers what stands at the root, and whether the way led there.
 func (c climber) climb(p proof) (side, bool) {
-	here := side{digest: Sum(leafText(p.name, p.balance, p.salt)), sum: p.balance}
+	here := leafSide(p.leaf)
 	place, ok := p.place, true
 	for _, beside := range p.beside {
 		here, ok = c.step(place, here, beside)
@@ -31,14 +29,12 @@ func inOrder(place int, here, beside side) (side, side) {
 	return beside, here
 }
 
-// join needs sums of at most MaxSum each, so that both together don't go round.
+// join answers false if both sums together are more than MaxSum.
 func join(place int, here, beside side) (side, bool) {
-	sum := here.sum + beside.sum
-	if sum > api.MaxSum {
+	if _, ok := add(here.sum, beside.sum); !ok {
 		return side{}, false
 	}
-	left, right := inOrder(place, here, beside)
-	return side{digest: Sum(nodeText(left, right)), sum: sum}, true
+	return nodeSide(inOrder(place, here, beside)), true
 }
 
 func accepts(r report, p proof) bool {

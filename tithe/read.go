@@ -10,11 +10,9 @@ type report struct {
 
 // proof is what a proof's bytes say, but for the height, which is the report's.
 type proof struct {
-	place   int
-	name    string
-	balance uint64
-	salt    uint64
-	beside  []side // from the lowest level up
+	place  int
+	leaf   leaf
+	beside []side // from the lowest level up
 }
 
 // proofHead is how many bytes of a proof stand ahead of the name.
@@ -39,27 +37,25 @@ func readProof(b []byte, height int) (proof, bool) {
 	if len(b) != nameEnd+2*numberSize+height*sideSize {
 		return proof{}, false
 	}
-	p := proof{
-		place:   place,
+	l := leaf{
 		name:    string(b[proofHead:nameEnd]),
 		balance: readNumber(b[nameEnd:]),
 		salt:    readNumber(b[nameEnd+numberSize:]),
-		beside:  readSides(b[nameEnd+2*numberSize:], height),
 	}
-	return p, sumsWithinBounds(p)
+	p := proof{place: place, leaf: l, beside: readSides(b[nameEnd+2*numberSize:], height)}
+	return p, greatestSum(p) <= api.MaxSum
 }
 
 func isNameLength(n int) bool {
 	return 1 <= n && n <= api.MaxName
 }
 
-func sumsWithinBounds(p proof) bool {
+func greatestSum(p proof) uint64 {
+	greatest := p.leaf.balance
 	for _, s := range p.beside {
-		if s.sum > api.MaxSum {
-			return false
-		}
+		greatest = max(greatest, s.sum)
 	}
-	return p.balance <= api.MaxSum
+	return greatest
 }
 
 func readSides(b []byte, count int) []side {
