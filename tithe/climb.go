@@ -41,3 +41,24 @@ func accepts(r report, p proof) bool {
 	root, ok := climber{step: join}.climb(p)
 	return ok && root.digest == r.root.digest && root.sum == r.root.sum
 }
+
+// readAccepted answers false if the bytes are no proof, or none of this report.
+func readAccepted(r report, b []byte) (proof, bool) {
+	p, ok := readProof(b, r.height)
+	if !ok || !accepts(r, p) {
+		return proof{}, false
+	}
+	return p, true
+}
+
+func readAllAccepted(r report, proofs [][]byte) ([]proof, bool) {
+	all := []proof{}
+	for _, b := range proofs {
+		p, ok := readAccepted(r, b)
+		if !ok {
+			return nil, false
+		}
+		all = append(all, p)
+	}
+	return all, true
+}

@@ -20,12 +20,26 @@ func Verify(report []byte, proof []byte) (string, uint64, api.Errno) {
 	if !ok {
 		return "", 0, api.ErrReport
 	}
-	p, ok := readProof(proof, r.height)
-	if !ok || !accepts(r, p) {
+	p, ok := readAccepted(r, proof)
+	if !ok {
 		return "", 0, api.ErrProof
 	}
 	return p.leaf.name, p.leaf.balance, api.OK
 }
 
 // Extract looks at proofs together: two texts of one digest, if they can't all be true (P8).
-func Extract(report []byte, proofs [][]byte) ([]byte, []byte, api.Errno) { return nil, nil, api.OK }
+func Extract(report []byte, proofs [][]byte) ([]byte, []byte, api.Errno) {
+	r, ok := readReport(report)
+	if !ok {
+		return nil, nil, api.ErrReport
+	}
+	accepted, ok := readAllAccepted(r, proofs)
+	if !ok {
+		return nil, nil, api.ErrProof
+	}
+	if nameTwice(accepted) {
+		return nil, nil, api.ErrTwice
+	}
+	first, other := twoTexts(accepted, r.height)
+	return first, other, api.OK
+}

@@ -66,24 +66,50 @@ func proofBytes(height, place int, a account, beside []mark) string {
 	return b
 }
 
+// way is what a proof says: whose leaf, where, and what stands beside the way up.
+type way struct {
+	place  int
+	leaf   account
+	beside []mark
+}
+
+func (w way) proof() string { return proofBytes(len(w.beside), w.place, w.leaf, w.beside) }
+
+// climb answers the texts on the way, from the leaf up, and what is at the root.
+func (w way) climb() (texts []string, root mark) {
+	texts, here := []string{"\x00" + w.leaf.bytes()}, w.leaf.mark()
+	at := w.place
+	for _, m := range w.beside {
+		left, right := here, m
+		if at%2 == 1 {
+			left, right = m, here
+		}
+		texts = append(texts, "\x01"+left.bytes()+right.bytes())
+		here = nodeMark(left, right)
+		at /= 2
+	}
+	return texts, here
+}
+
 // forge makes a proof of whatever it is given, and the report that fits it, so
 // that nothing but what was given can be the reason for a refusal.
 func forge(place int, a account, beside ...mark) (string, string) {
-	height, here := len(beside), a.mark()
-	at := place
-	for _, m := range beside {
-		if at%2 == 0 {
-			here = nodeMark(here, m)
-		} else {
-			here = nodeMark(m, here)
-		}
-		at /= 2
-	}
-	return reportBytes(height, here), proofBytes(height, place, a, beside)
+	w := way{place, a, beside}
+	_, root := w.climb()
+	return reportBytes(len(beside), root), w.proof()
 }
 
 // honest makes the report of a tree, and each account's proof.
 func honest(height int, accounts []account) (string, []string) {
+	report, ways := honestWays(height, accounts)
+	proofs := []string{}
+	for _, w := range ways {
+		proofs = append(proofs, w.proof())
+	}
+	return report, proofs
+}
+
+func honestWays(height int, accounts []account) (string, []way) {
 	level := []mark{}
 	for place := range 1 << height {
 		if place < len(accounts) {
@@ -92,10 +118,13 @@ func honest(height int, accounts []account) (string, []string) {
 			level = append(level, padMark(place))
 		}
 	}
-	beside := make([][]mark, len(accounts))
+	ways := []way{}
+	for i, a := range accounts {
+		ways = append(ways, way{place: i, leaf: a})
+	}
 	for h := range height {
-		for i := range accounts {
-			beside[i] = append(beside[i], level[(i>>h)^1])
+		for i := range ways {
+			ways[i].beside = append(ways[i].beside, level[(i>>h)^1])
 		}
 		above := []mark{}
 		for i := 0; i < len(level); i += 2 {
@@ -103,11 +132,7 @@ func honest(height int, accounts []account) (string, []string) {
 		}
 		level = above
 	}
-	proofs := []string{}
-	for i, a := range accounts {
-		proofs = append(proofs, proofBytes(height, i, a, beside[i]))
-	}
-	return reportBytes(height, level[0]), proofs
+	return reportBytes(height, level[0]), ways
 }
 
 // someAccounts are sorted by name, as a tree has them.
